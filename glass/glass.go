@@ -1,7 +1,10 @@
 // Package glass: texts that are seen, and changed by what is seen: see DOC.md.
 package glass
 
-import "glass/syntax"
+import (
+	"glass/check"
+	"glass/syntax"
+)
 
 // Errno is what a call answers: OK or the reason for a refusal.
 type Errno int
@@ -43,9 +46,18 @@ func read(lens string) (*syntax.Lens, Errno, int) {
 	return tree, OK, 0
 }
 
-// Check looks whether a lens is wrong (P4). It is yet to be built, and answers
-// zero values.
-func Check(lens string) (Errno, int, string) { return OK, 0, "" }
+// Check looks whether a lens is wrong (P4). Of several wrong places it answers
+// the first one.
+func Check(lens string) (Errno, int, string) {
+	tree, e, at := read(lens)
+	if e != OK {
+		return e, at, ""
+	}
+	if at, witness, wrong := check.FirstWrong(tree); wrong {
+		return ErrType, at, witness
+	}
+	return OK, 0, ""
+}
 
 // Get sees (P5). It is yet to be built, and answers zero values.
 func Get(lens string, source string) (string, Errno) { return "", OK }

@@ -1,6 +1,8 @@
 // Package pattern reads the patterns of a lens and tells which texts are theirs.
 package pattern
 
+import "slices"
+
 type kind int
 
 const (
@@ -17,6 +19,43 @@ type Pattern struct {
 	kind  kind
 	signs set
 	parts []*Pattern
+}
+
+// Text is the pattern of one text of signs alone.
+func Text(text string) *Pattern {
+	var all []*Pattern
+	for i := range len(text) {
+		all = append(all, sign(text[i]))
+	}
+	return Row(all...)
+}
+
+// Row is the pattern of a text of each part, one behind the other.
+func Row(parts ...*Pattern) *Pattern {
+	return joined(row, parts)
+}
+
+// Choice is the pattern of the texts of all its parts.
+func Choice(parts ...*Pattern) *Pattern {
+	return joined(choice, parts)
+}
+
+// joined makes one pattern of several. One alone stays what it is: that keeps
+// machines small.
+func joined(how kind, parts []*Pattern) *Pattern {
+	if len(parts) == 1 {
+		return parts[0]
+	}
+	return &Pattern{kind: how, parts: slices.Clone(parts)}
+}
+
+// Many is the pattern of rows of texts of a part, of any number.
+func Many(part *Pattern) *Pattern {
+	return &Pattern{kind: many, parts: []*Pattern{part}}
+}
+
+func sign(b byte) *Pattern {
+	return &Pattern{kind: one, signs: span(b, b)}
 }
 
 // Read reads the pattern that begins at a place of a text. It answers the
@@ -52,29 +91,29 @@ func (r *reader) take(b byte) bool {
 }
 
 func (r *reader) pattern() *Pattern {
-	whole := &Pattern{kind: choice}
+	var branches []*Pattern
 	for {
 		branch := r.branch()
 		if branch == nil {
 			return nil
 		}
-		whole.parts = append(whole.parts, branch)
+		branches = append(branches, branch)
 		if !r.take('|') {
-			return whole
+			return Choice(branches...)
 		}
 	}
 }
 
 func (r *reader) branch() *Pattern {
-	whole := &Pattern{kind: row}
+	var bases []*Pattern
 	for r.atBase() {
 		base := r.base()
 		if base == nil {
 			return nil
 		}
-		whole.parts = append(whole.parts, r.repeated(base))
+		bases = append(bases, r.repeated(base))
 	}
-	return whole
+	return Row(bases...)
 }
 
 func (r *reader) atBase() bool {
@@ -105,9 +144,9 @@ func (r *reader) base() *Pattern {
 	case r.take('('):
 		return r.bracketed()
 	}
-	sign := r.peek()
+	b := r.peek()
 	r.at++
-	return &Pattern{kind: one, signs: span(sign, sign)}
+	return sign(b)
 }
 
 func (r *reader) bracketed() *Pattern {

@@ -1,6 +1,9 @@
 package pattern
 
-import "strings"
+import (
+	"math/bits"
+	"strings"
+)
 
 // signs stand in the order of their bytes, so that a span is a run of them.
 const signs = ",0123456789:;=_abcdefghijklmnopqrstuvwxyz"
@@ -23,4 +26,9 @@ func span(first, last byte) set {
 func (s set) has(b byte) bool {
 	index := strings.IndexByte(signs, b)
 	return index >= 0 && s>>index&1 == 1
+}
+
+// lowest is the first sign of a set that is not empty.
+func (s set) lowest() byte {
+	return signs[bits.TrailingZeros64(uint64(s))]
 }

@@ -23,9 +23,14 @@ const (
 
 // Lens is the tree that was read. Parts are the lenses it is made of, in the
 // order in which they stand.
+//
+// Joints are the places where its parts are joined: those of a Row, where each
+// item but the first one begins; those of a Choice, where each | stands; that
+// of a Swap, where its ~ stands; that of Many, where its * stands.
 type Lens struct {
-	Kind  Kind
-	Parts []*Lens
+	Kind   Kind
+	Parts  []*Lens
+	Joints []int
 
 	// These are of Same and Fixed.
 	Pattern *pattern.Pattern

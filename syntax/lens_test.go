@@ -54,3 +54,15 @@ func TestWrongDefault(t *testing.T) {
 		}
 	}
 }
+
+func TestJoints(t *testing.T) {
+	lens, _ := Read("\n~ ( /a/ | /b/\n| /c/ ,\n/d/ * /e/(/f/) ) *")
+	var joints [][]int
+	for l := range lens.all() {
+		joints = append(joints, l.Joints)
+	}
+	want := [][]int{{40}, {1}, {9, 15}, nil, nil, nil, {29, 32}, {27}, nil, nil, nil, nil}
+	if !slices.EqualFunc(joints, want, slices.Equal[[]int]) {
+		t.Errorf("the joints are %v, want %v", joints, want)
+	}
+}

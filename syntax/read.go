@@ -49,6 +49,7 @@ func (r *reader) take(b byte) bool {
 
 func (r *reader) lens() *Lens {
 	var rows []*Lens
+	var bars []int
 	for {
 		row := r.row()
 		if row == nil {
@@ -56,13 +57,15 @@ func (r *reader) lens() *Lens {
 		}
 		rows = append(rows, row)
 		if !r.take('|') {
-			return joined(Choice, rows)
+			return joined(Choice, rows, bars)
 		}
+		bars = append(bars, r.at-1)
 	}
 }
 
 func (r *reader) row() *Lens {
 	var items []*Lens
+	var begins []int
 	for {
 		item := r.item()
 		if item == nil {
@@ -70,19 +73,21 @@ func (r *reader) row() *Lens {
 		}
 		items = append(items, item)
 		if !r.atPiece() {
-			return joined(Row, items)
+			return joined(Row, items, begins)
 		}
+		begins = append(begins, r.at)
 	}
 }
 
 // joined makes one lens of several; one alone stays what it is.
-func joined(kind Kind, parts []*Lens) *Lens {
+func joined(kind Kind, parts []*Lens, joints []int) *Lens {
 	if len(parts) == 1 {
 		return parts[0]
 	}
-	return &Lens{Kind: kind, Parts: parts}
+	return &Lens{Kind: kind, Parts: parts, Joints: joints}
 }
 
+// atPiece leaves the reader at the piece, if one begins.
 func (r *reader) atPiece() bool {
 	b := r.peek()
 	return b == '/' || b == '~' || b == '('
@@ -93,7 +98,7 @@ func (r *reader) item() *Lens {
 	if piece == nil || !r.take('*') {
 		return piece
 	}
-	return &Lens{Kind: Many, Parts: []*Lens{piece}}
+	return &Lens{Kind: Many, Parts: []*Lens{piece}, Joints: []int{r.at - 1}}
 }
 
 func (r *reader) piece() *Lens {
@@ -160,6 +165,7 @@ func (r *reader) quoted() (string, int, bool) {
 }
 
 func (r *reader) swap() *Lens {
+	at := r.at - 1
 	if !r.take('(') {
 		return nil
 	}
@@ -171,7 +177,7 @@ func (r *reader) swap() *Lens {
 	if second == nil || !r.take(')') {
 		return nil
 	}
-	return &Lens{Kind: Swap, Parts: []*Lens{first, second}}
+	return &Lens{Kind: Swap, Parts: []*Lens{first, second}, Joints: []int{at}}
 }
 
 func (r *reader) group() *Lens {
