@@ -56,8 +56,8 @@ func (j joint) witness() (string, bool) {
 		// Two rows may have a view in common: only sources tell them apart.
 		return j.shared()
 	}
-	source, ofSources := j.twice(sources)
-	view, ofViews := j.twice(views)
+	source, ofSources := j.twice(syntax.Sources)
+	view, ofViews := j.twice(syntax.Views)
 	if ofSources && ofViews {
 		return shorter(source, view), true
 	}
@@ -73,14 +73,14 @@ func shorter(a, b string) string {
 
 // shared looks for a source of a row that is one of the rows ahead of it too.
 func (j joint) shared() (string, bool) {
-	ahead, behind := j.around(sources)
+	ahead, behind := j.around(syntax.Sources)
 	return pattern.Shared(pattern.Choice(ahead...), behind)
 }
 
 // twice looks for a text that a side of the lens has in two ways.
-func (j joint) twice(s side) (string, bool) {
+func (j joint) twice(s syntax.Side) (string, bool) {
 	if j.lens.Kind == syntax.Many {
-		return repeatedTwice(s.texts(j.lens.Parts[0]))
+		return repeatedTwice(s.Texts(j.lens.Parts[0]))
 	}
 	ahead, behind := j.around(s)
 	return pattern.PartedTwice(pattern.Row(ahead...), behind)
@@ -88,8 +88,8 @@ func (j joint) twice(s side) (string, bool) {
 
 // around answers the texts of all parts ahead of the joint, and of the one
 // behind it.
-func (j joint) around(s side) ([]*pattern.Pattern, *pattern.Pattern) {
-	parts := s.parts(j.lens)
+func (j joint) around(s syntax.Side) ([]*pattern.Pattern, *pattern.Pattern) {
+	parts := s.Parts(j.lens)
 	return parts[:j.number+1], parts[j.number+1]
 }
 

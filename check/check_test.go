@@ -44,35 +44,6 @@ func TestJointsStopEarly(t *testing.T) {
 	}
 }
 
-func TestSides(t *testing.T) {
-	for _, c := range []struct {
-		lens             string
-		sources, views   []string
-		noSource, noView []string
-	}{
-		{`/a*/`, []string{"", "aa"}, []string{"", "aa"}, []string{"b"}, []string{"b"}},
-		{`/a*/"b""a"`, []string{"", "aa"}, []string{"b"}, []string{"b"}, []string{"", "a", "bb"}},
-		{`/a/"x""a" /b/`, []string{"ab"}, []string{"xb"}, []string{"xb", "ba"}, []string{"ab", "bx"}},
-		{`~(/a/"x""a", /b/"y""b" /c/)`, []string{"abc"}, []string{"ycx"}, []string{"bca"}, []string{"xyc", "cyx"}},
-		{`/a/"x""a" | /b/"""b"`, []string{"a", "b"}, []string{"x", ""}, []string{"", "ab"}, []string{"a", "b"}},
-		{`(/a/"x""a" | /b/)*`, []string{"", "aba"}, []string{"", "xbx"}, []string{"x"}, []string{"a"}},
-		{`((~(/a/, /b/)))*`, []string{"", "abab"}, []string{"", "baba"}, []string{"ba"}, []string{"ab"}},
-	} {
-		l := read(t, c.lens)
-		for _, x := range []struct {
-			side  side
-			texts []string
-			want  bool
-		}{{sources, c.sources, true}, {views, c.views, true}, {sources, c.noSource, false}, {views, c.noView, false}} {
-			for _, text := range x.texts {
-				if x.side.texts(l).Holds(text) != x.want {
-					t.Errorf("%s, side %d: %q is in it: %v", c.lens, x.side, text, !x.want)
-				}
-			}
-		}
-	}
-}
-
 // TestShorterWitness has lenses that are wrong for sources and for views: the
 // shorter text is told.
 func TestShorterWitness(t *testing.T) {

@@ -49,7 +49,7 @@ func wild() []string {
 	all := []string{
 		"", " ", "\n", "\x00", "\xff", "\x80\x80", "é", "日本", "\xf0\x9f", "A", "a", "0", "\t", "\r\n",
 		"/a/\x00", "/\xff/", "/a/\"\xff\"\"a\"", "/[\x80-\xff]/", "/[a-\xff]/", "//\xc3",
-		"a1b22c3", "ab=12;", "/a/", "/a/*", "//*", "/a*/ /a?/", `(/a/"" "a")*`, "~(/a/, /b/)", `/a/"x""b"`,
+		"a1b22c3", "ab=12;", "abc", entry, counted, crossed, "/a/", "/a/*", "//*", "/a*/ /a?/", `(/a/"" "a")*`, "~(/a/, /b/)", `/a/"x""b"`,
 		// Brackets as deep as the limit lets them be.
 		times("(", 120), times("(", 58) + "/ab/" + times(")", 58), times("(", 38) + "/ab/" + times(")*", 38),
 		times("~(", 60), times("~(//,", 19) + "//" + times(")", 19), times("~(", 19) + "//" + times(",//)", 19),
@@ -113,13 +113,16 @@ func TestCallsForget(t *testing.T) {
 	for range 2000 {
 		all = append(all, muddle(random))
 	}
-	first := make([]answer, len(all))
+	twice := func(lens string) [2]answer {
+		return [2]answer{callAll(lens, "b", "a"), callAll(lens, "abc", "a1b22c3")}
+	}
+	first := make([][2]answer, len(all))
 	for i, lens := range all {
-		first[i] = callAll(lens, "b", "a")
+		first[i] = twice(lens)
 	}
 	// The other way round, so that each call has others ahead of it.
 	for i := len(all) - 1; i >= 0; i-- {
-		if again := callAll(all[i], "b", "a"); again != first[i] {
+		if again := twice(all[i]); again != first[i] {
 			t.Errorf("P2: with %.60q: %#v, and then %#v", all[i], first[i], again)
 		}
 	}

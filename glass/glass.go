@@ -3,6 +3,7 @@ package glass
 
 import (
 	"glass/check"
+	"glass/compile"
 	"glass/syntax"
 )
 
@@ -19,8 +20,10 @@ const (
 	ErrView    Errno = 6 // no view
 )
 
-// maxLens is how many bytes a lens may have.
-const maxLens = 120
+const (
+	maxLens = 120 // bytes of a lens
+	maxText = 60  // bytes of a source or a view
+)
 
 // Print writes a lens in its plain form (P3).
 func Print(lens string) (string, Errno, int) {
@@ -49,22 +52,74 @@ func read(lens string) (*syntax.Lens, Errno, int) {
 // Check looks whether a lens is wrong (P4). Of several wrong places it answers
 // the first one.
 func Check(lens string) (Errno, int, string) {
-	tree, e, at := read(lens)
-	if e != OK {
-		return e, at, ""
-	}
-	if at, witness, wrong := check.FirstWrong(tree); wrong {
-		return ErrType, at, witness
-	}
-	return OK, 0, ""
+	_, e, at, witness := examine(lens)
+	return e, at, witness
 }
 
-// Get sees (P5). It is yet to be built, and answers zero values.
-func Get(lens string, source string) (string, Errno) { return "", OK }
+// examine answers the tree of a lens that is not wrong, or an error of Print or
+// Check with its place and witness.
+func examine(lens string) (*syntax.Lens, Errno, int, string) {
+	tree, e, at := read(lens)
+	if e != OK {
+		return nil, e, at, ""
+	}
+	if at, witness, wrong := check.FirstWrong(tree); wrong {
+		return nil, ErrType, at, witness
+	}
+	return tree, OK, 0, ""
+}
 
-// Put lays back (P6). It is yet to be built, and answers zero values.
-func Put(lens string, view string, source string) (string, Errno) { return "", OK }
+// Get answers what a lens sees of a source (P5).
+func Get(lens string, source string) (string, Errno) {
+	l, e := compiled(lens, source)
+	if e != OK {
+		return "", e
+	}
+	view, misfit := l.Get(source)
+	return view, refusal(misfit)
+}
 
-// Create makes a source of a view alone (P7). It is yet to be built, and
-// answers zero values.
-func Create(lens string, view string) (string, Errno) { return "", OK }
+// Put lays a view back into a source (P6).
+func Put(lens string, view string, source string) (string, Errno) {
+	l, e := compiled(lens, view, source)
+	if e != OK {
+		return "", e
+	}
+	changed, misfit := l.Put(view, source)
+	return changed, refusal(misfit)
+}
+
+// Create makes a source of a view alone (P7).
+func Create(lens string, view string) (string, Errno) {
+	l, e := compiled(lens, view)
+	if e != OK {
+		return "", e
+	}
+	source, misfit := l.Create(view)
+	return source, refusal(misfit)
+}
+
+// compiled answers a lens as functions, or why it, or the length of one of the
+// texts for it, is refused.
+func compiled(lens string, texts ...string) (*compile.Lens, Errno) {
+	tree, e, _, _ := examine(lens)
+	if e != OK {
+		return nil, e
+	}
+	for _, text := range texts {
+		if len(text) > maxText {
+			return nil, ErrLong
+		}
+	}
+	return compile.New(tree), OK
+}
+
+func refusal(m compile.Misfit) Errno {
+	switch m {
+	case compile.NoSource:
+		return ErrSource
+	case compile.NoView:
+		return ErrView
+	}
+	return OK
+}

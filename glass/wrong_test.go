@@ -5,6 +5,7 @@ import (
 	"math/rand"
 	"regexp"
 	"slices"
+	"sync"
 	"testing"
 )
 
@@ -16,13 +17,21 @@ const most = 5
 type texts struct {
 	short map[string]bool
 	all   string
+	read  func() *regexp.Regexp // reads all
+}
+
+// newTexts leaves the expression unread until it is asked for.
+func newTexts(short map[string]bool, all string) texts {
+	return texts{short, all, sync.OnceValue(func() *regexp.Regexp {
+		return regexp.MustCompile(`\A(?:` + all + `)\z`)
+	})}
 }
 
 func (s texts) have(text string) bool {
 	if len(text) <= most {
 		return s.short[text]
 	}
-	return regexp.MustCompile(`\A(?:` + s.all + `)\z`).MatchString(text)
+	return s.read().MatchString(text)
 }
 
 func ofPattern(pattern string) texts {
@@ -37,11 +46,11 @@ func ofPattern(pattern string) texts {
 			tried = append(tried, tried[i]+"a", tried[i]+"b")
 		}
 	}
-	return texts{short, pattern}
+	return newTexts(short, pattern)
 }
 
 func oneText(text string) texts {
-	return texts{map[string]bool{text: true}, text}
+	return newTexts(map[string]bool{text: true}, text)
 }
 
 func rowOf(s, u texts) texts {
@@ -53,7 +62,7 @@ func rowOf(s, u texts) texts {
 			}
 		}
 	}
-	return texts{short, "(?:" + s.all + ")(?:" + u.all + ")"}
+	return newTexts(short, "(?:"+s.all+")(?:"+u.all+")")
 }
 
 func choiceOf(s, u texts) texts {
@@ -63,16 +72,22 @@ func choiceOf(s, u texts) texts {
 			short[a] = true
 		}
 	}
-	return texts{short, "(?:" + s.all + ")|(?:" + u.all + ")"}
+	return newTexts(short, "(?:"+s.all+")|(?:"+u.all+")")
 }
 
 func manyOf(s texts) texts {
-	whole := oneText("")
-	for range most {
-		whole = choiceOf(whole, rowOf(whole, s))
+	short := map[string]bool{"": true}
+	rows := []string{""}
+	for i := 0; i < len(rows); i++ {
+		for part := range s.short {
+			longer := rows[i] + part
+			if len(longer) <= most && !short[longer] {
+				short[longer] = true
+				rows = append(rows, longer)
+			}
+		}
 	}
-	whole.all = "(?:" + s.all + ")*"
-	return whole
+	return newTexts(short, "(?:"+s.all+")*")
 }
 
 // spot is a place at which a lens may be wrong.
@@ -170,13 +185,12 @@ func rows(text string, isPart func(string) bool) int {
 // along with it.
 type sketch struct {
 	maker
+	pool
 	spots []spot
+	whole model
 }
 
-// both are the sources and the views of a part of a sketch.
-type both struct{ sources, views texts }
-
-func (s *sketch) lens(deep int) both {
+func (s *sketch) lens(deep int) model {
 	whole := s.row(deep)
 	for s.random.Intn(4) == 0 {
 		s.gap("")
@@ -185,24 +199,24 @@ func (s *sketch) lens(deep int) both {
 		s.gap("")
 		next := s.row(deep)
 		s.spots = append(s.spots, sharing(at, whole.sources, next.sources))
-		whole = both{choiceOf(whole.sources, next.sources), choiceOf(whole.views, next.views)}
+		whole = choiceModel(whole, next)
 	}
 	return whole
 }
 
-func (s *sketch) row(deep int) both {
+func (s *sketch) row(deep int) model {
 	whole := s.item(deep)
 	for s.random.Intn(3) == 0 {
 		s.gap("")
 		at := s.loose.Len()
 		next := s.item(deep)
 		s.spots = append(s.spots, either(parting(at, whole.sources, next.sources), parting(at, whole.views, next.views)))
-		whole = both{rowOf(whole.sources, next.sources), rowOf(whole.views, next.views)}
+		whole = rowModel(whole, next)
 	}
 	return whole
 }
 
-func (s *sketch) item(deep int) both {
+func (s *sketch) item(deep int) model {
 	piece := s.piece(deep)
 	if s.random.Intn(3) > 0 {
 		return piece
@@ -211,18 +225,17 @@ func (s *sketch) item(deep int) both {
 	at := s.loose.Len()
 	s.part("*")
 	s.spots = append(s.spots, either(repeating(at, piece.sources), repeating(at, piece.views)))
-	return both{manyOf(piece.sources), manyOf(piece.views)}
+	return manyModel(piece)
 }
 
-func (s *sketch) piece(deep int) both {
+func (s *sketch) piece(deep int) model {
 	kind := s.random.Intn(4)
 	if deep == 0 {
 		kind %= 2
 	}
 	switch kind {
 	case 0:
-		p := s.patternPiece()
-		return both{p, p}
+		return sameModel(s.patternPiece())
 	case 1:
 		return s.fixed()
 	case 2:
@@ -237,10 +250,10 @@ func (s *sketch) piece(deep int) both {
 	k := s.bracket(",", deep)
 	s.part(")")
 	s.spots = append(s.spots, either(parting(at, l.sources, k.sources), parting(at, k.views, l.views)))
-	return both{rowOf(l.sources, k.sources), rowOf(k.views, l.views)}
+	return swapModel(l, k)
 }
 
-func (s *sketch) bracket(sign string, deep int) both {
+func (s *sketch) bracket(sign string, deep int) model {
 	s.part(sign)
 	s.gap("")
 	inner := s.lens(deep - 1)
@@ -249,30 +262,53 @@ func (s *sketch) bracket(sign string, deep int) both {
 }
 
 func (s *sketch) patternPiece() texts {
-	all := []string{
-		"a", "b", "ab", "ba", "a*", "b*", "a+", "b?", "a*b", "ba*", "(ab)*", "a|bb", "[ab]", "[a-b]*b", "aa|b", "",
-		"(aaa)*", "(aaaaa)*", "aab|b", "a|ab", "b|ab", "(a|bb)+", "ab?|b", "(aa)*b?", "a(b|)a", "bbb|abb|a",
-	}
-	pattern := all[s.random.Intn(len(all))]
+	pattern := s.pick(s.patterns)
 	s.part("/" + pattern + "/")
 	return ofPattern(pattern)
 }
 
-func (s *sketch) fixed() both {
+func (s *sketch) pick(from []string) string {
+	return from[s.random.Intn(len(from))]
+}
+
+func (s *sketch) fixed() model {
 	p := s.patternPiece()
-	view := []string{"", "a", "b", "ab", "aa", "bab"}[s.random.Intn(6)]
+	view := s.pick(s.fixedViews)
+	made := s.pick(slices.Sorted(maps.Keys(p.short)))
 	s.gap("")
 	s.part(`"` + view + `"`)
 	s.gap("")
-	s.part(`"` + slices.Min(slices.Collect(maps.Keys(p.short))) + `"`)
-	return both{p, oneText(view)}
+	s.part(`"` + made + `"`)
+	return fixedModel(p, view, made)
 }
 
-func makeSketch(random *rand.Rand) *sketch {
+// pool is what the pieces of a sketch are made of.
+type pool struct{ patterns, fixedViews []string }
+
+// mixed makes lenses that are often wrong.
+func mixed() pool {
+	return pool{
+		[]string{
+			"a", "b", "ab", "ba", "a*", "b*", "a+", "b?", "a*b", "ba*", "(ab)*", "a|bb", "[ab]", "[a-b]*b", "aa|b", "",
+			"(aaa)*", "(aaaaa)*", "aab|b", "a|ab", "b|ab", "(a|bb)+", "ab?|b", "(aa)*b?", "a(b|)a", "bbb|abb|a",
+		},
+		[]string{"", "a", "b", "ab", "aa", "bab"},
+	}
+}
+
+// ended makes lenses that are mostly right: each text ends at its first b.
+func ended() pool {
+	return pool{
+		[]string{"b", "ab", "aab", "b|ab", "a?b", "a*b", "aa+b", "(aa)*b", "a(aa)*b", "aaa*b", "ab|aaaab"},
+		[]string{"b", "ab", "aab", "aaaab"},
+	}
+}
+
+func makeSketch(random *rand.Rand, from pool) *sketch {
 	for {
-		s := &sketch{maker: maker{random: random}}
+		s := &sketch{maker: maker{random: random}, pool: from}
 		s.gap("")
-		s.lens(random.Intn(3))
+		s.whole = s.lens(random.Intn(3))
 		s.gap("")
 		if s.loose.Len() <= maxLens {
 			return s
@@ -305,7 +341,7 @@ func TestCheckSketches(t *testing.T) {
 	seen := map[Errno]int{}
 	long := 0
 	for range 4000 {
-		s := makeSketch(random)
+		s := makeSketch(random, mixed())
 		lens := s.loose.String()
 		e, at, witness := Check(lens)
 		if fault := s.fault(e, at, witness); fault != "" {

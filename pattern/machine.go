@@ -12,45 +12,70 @@ type state struct {
 	free  []int
 }
 
-// machine reads the texts of a pattern from its start to its end.
-type machine struct {
+// Machine reads the texts of a pattern from its start to its end.
+//
+// All the ways to read a text are gone at once, state by state: repeats within
+// repeats would cost too much if they were tried one by one.
+type Machine struct {
 	states     []state
 	start, end int
 }
 
-// Holds tells whether a text is one of the pattern's.
-//
-// All the ways to read the text are gone at once, state by state: repeats
-// within repeats would cost too much if they were tried one by one.
-func (p *Pattern) Holds(text string) bool {
-	m := build(p)
-	now := []int{m.start}
-	for i := range len(text) {
-		now = m.step(now, text[i])
-	}
-	for s := range m.reach(now) {
-		if s == m.end {
-			return true
-		}
-	}
-	return false
-}
-
-func build(p *Pattern) *machine {
-	m := &machine{}
+// Machine answers a machine that reads the texts of the pattern.
+func (p *Pattern) Machine() *Machine {
+	m := &Machine{}
 	m.end = m.add(state{})
 	m.start = m.lay(p, m.end)
 	return m
 }
 
-func (m *machine) add(s state) int {
+// Holds tells whether a text is one of the pattern's.
+func (p *Pattern) Holds(text string) bool {
+	return p.Machine().Holds(text)
+}
+
+// Holds tells whether a text is one of the pattern's that the machine reads.
+func (m *Machine) Holds(text string) bool {
+	now := []int{m.start}
+	for i := 0; i < len(text) && len(now) > 0; i++ {
+		now = m.step(now, text[i])
+	}
+	return m.ended(now)
+}
+
+// Places gives out the places at which a text can be parted into one that the
+// machine ahead reads and one that the machine behind reads, in their order.
+func Places(ahead, behind *Machine, text string) iter.Seq[int] {
+	return func(yield func(int) bool) {
+		for at := range ahead.ends(text) {
+			if behind.Holds(text[at:]) && !yield(at) {
+				return
+			}
+		}
+	}
+}
+
+// ends gives out where those beginnings of a text end that the machine reads.
+func (m *Machine) ends(text string) iter.Seq[int] {
+	return func(yield func(int) bool) {
+		now := []int{m.start}
+		for at := 0; len(now) > 0; at++ {
+			if m.ended(now) && !yield(at) || at == len(text) {
+				return
+			}
+			now = m.step(now, text[at])
+		}
+	}
+}
+
+func (m *Machine) add(s state) int {
 	m.states = append(m.states, s)
 	return len(m.states) - 1
 }
 
 // lay adds the states that read a pattern and then come to a state. It answers
 // the first of them.
-func (m *machine) lay(p *Pattern, to int) int {
+func (m *Machine) lay(p *Pattern, to int) int {
 	switch p.kind {
 	case one:
 		return m.add(state{signs: p.signs, next: to})
@@ -78,7 +103,7 @@ func (m *machine) lay(p *Pattern, to int) int {
 }
 
 // reach gives out each state, once, that can be come to without a sign.
-func (m *machine) reach(from []int) iter.Seq[int] {
+func (m *Machine) reach(from []int) iter.Seq[int] {
 	return func(yield func(int) bool) {
 		seen := make([]bool, len(m.states))
 		waiting := slices.Clone(from)
@@ -99,7 +124,7 @@ func (m *machine) reach(from []int) iter.Seq[int] {
 }
 
 // step answers the states behind one more byte.
-func (m *machine) step(from []int, b byte) []int {
+func (m *Machine) step(from []int, b byte) []int {
 	var next []int
 	for s := range m.reach(from) {
 		if m.states[s].signs.has(b) {
@@ -107,4 +132,14 @@ func (m *machine) step(from []int, b byte) []int {
 		}
 	}
 	return next
+}
+
+// ended tells whether the end can be come to without a sign.
+func (m *Machine) ended(from []int) bool {
+	for s := range m.reach(from) {
+		if s == m.end {
+			return true
+		}
+	}
+	return false
 }

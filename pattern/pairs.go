@@ -32,7 +32,7 @@ type visit struct {
 
 // search follows two readers through one machine.
 type search struct {
-	*machine
+	*Machine
 	gate   int // where a text of the pattern ahead ends
 	behind int // where the pattern behind begins
 }
@@ -56,7 +56,7 @@ func Shared(p, q *Pattern) (string, bool) {
 }
 
 func newSearch() *search {
-	s := &search{machine: &machine{}}
+	s := &search{Machine: &Machine{}}
 	s.end = s.add(state{})
 	return s
 }

@@ -3,6 +3,7 @@ package pattern
 import (
 	"math/rand"
 	"regexp"
+	"slices"
 	"strings"
 	"testing"
 )
@@ -113,4 +114,42 @@ func made(random *rand.Rand, deep int) string {
 		out.WriteString([]string{"", "*", "+", "?"}[random.Intn(4)])
 	}
 	return out.String()
+}
+
+func TestPlaces(t *testing.T) {
+	for _, c := range []struct {
+		ahead, behind, text string
+		want                []int
+	}{
+		{"", "", "", []int{0}},
+		{"", "", "a", nil},
+		{"a", "b", "ab", []int{1}},
+		{"a", "b", "ba", nil},
+		{"a*", "a*", "aaa", []int{0, 1, 2, 3}},
+		{"a*", "a+", "aaa", []int{0, 1, 2}},
+		{"a+", "a*", "aaa", []int{1, 2, 3}},
+		{"(aa)*", "a*", "aaaaa", []int{0, 2, 4}},
+		{"a|aba", "(ba)*", "aba", []int{1, 3}},
+		{"a*", "b*", "aab", []int{2}},
+		{"a*", "b*", "aaba", nil},
+		{"[,-z]*", "[,-z]*", "aA", nil},
+		{"a*", "", "aaaaab", nil},
+	} {
+		ahead, behind := read(t, c.ahead).Machine(), read(t, c.behind).Machine()
+		if places := slices.Collect(Places(ahead, behind, c.text)); !slices.Equal(places, c.want) {
+			t.Errorf("%q is parted into /%s/ and /%s/ at %v, want %v", c.text, c.ahead, c.behind, places, c.want)
+		}
+		for stop := range c.want {
+			count := 0
+			for range Places(ahead, behind, c.text) {
+				if count == stop {
+					break
+				}
+				count++
+			}
+			if count != stop {
+				t.Errorf("%d places were given out, want %d", count, stop)
+			}
+		}
+	}
 }
